@@ -51,6 +51,9 @@ func greatestDivisor(a, b int64) int64 {
 	return a
 }
 
+// leastMultiple returns the least common multiple of two positive numbers.
+func leastMultiple(a, b int64) int64 { return a / greatestDivisor(a, b) * b }
+
 // fitted returns f, whose Den is not 0, as the result of a function.
 func fitted(f Fraction) (Fraction, int64) {
 	f = f.lowest()
@@ -84,8 +87,7 @@ func (f Fraction) apart(g Fraction) Fraction {
 
 // meeting returns the least common multiple of the times 1/f and 1/g of one turn.
 func (f Fraction) meeting(g Fraction) Fraction {
-	multiple := f.Den / greatestDivisor(f.Den, g.Den) * g.Den
-	return Fraction{Num: multiple, Den: greatestDivisor(f.Num, g.Num)}
+	return Fraction{Num: leastMultiple(f.Den, g.Den), Den: greatestDivisor(f.Num, g.Num)}
 }
 
 // combined returns what operation, a method of the fraction a, makes of b.
